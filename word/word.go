@@ -3,6 +3,7 @@ package word
 
 import (
 	"pawl/api"
+	"pawl/limit"
 )
 
 // kinds is what a word's number is multiplied by, so that its kind has room below.
@@ -115,15 +116,18 @@ func wordOf(p part) api.Word {
 }
 
 func (v value) fits() bool {
-	return within(v.amount, api.MaxValue)
+	return limit.Within(v.amount, 0, api.MaxValue)
 }
 
 func (m mcas) fits() bool {
-	return within(m.slot, api.MaxSlots-1) && within(m.gen, api.MaxGen)
+	return limit.Within(m.slot, 0, api.MaxSlots-1) && limit.Within(m.gen, 0, api.MaxGen)
 }
 
 func (e entry) fits() bool {
-	return e.mcas.fits() && within(e.index, api.MaxEntries-1) && within(e.thread, api.MaxThreads-1) && within(e.seq, api.MaxSeq)
+	return e.mcas.fits() &&
+		limit.Within(e.index, 0, api.MaxEntries-1) &&
+		limit.Within(e.thread, 0, api.MaxThreads-1) &&
+		limit.Within(e.seq, 0, api.MaxSeq)
 }
 
 func (v value) number() int {
@@ -139,9 +143,4 @@ func (e entry) number() int {
 	n = n*api.MaxEntries + e.index
 	n = n*api.MaxThreads + e.thread
 	return n*(api.MaxSeq+1) + e.seq
-}
-
-// within tells whether x is from 0 to most.
-func within(x int, most int) bool {
-	return 0 <= x && x <= most
 }
