@@ -19,6 +19,19 @@ func May(o api.Op) bool {
 	return ok && limit.Within(o.A, 0, m.a) && limit.Within(o.B, 0, m.b) && limit.Within(o.X, 0, m.x)
 }
 
+// MayAll tells whether ops may be those of a transaction.
+func MayAll(ops ...api.Op) bool {
+	if !limit.Within(len(ops), 1, api.MaxOps) {
+		return false
+	}
+	for _, o := range ops {
+		if !May(o) {
+			return false
+		}
+	}
+	return true
+}
+
 // mostOf tells the limits of a kind of operation; false, if there is no such kind.
 func mostOf(kind int) (most, bool) {
 	const account, key = api.Accounts - 1, api.Keys - 1

@@ -1,6 +1,7 @@
 package operation
 
 import (
+	"slices"
 	"sync"
 	"testing"
 
@@ -62,6 +63,28 @@ func TestKindsThatAreNone(t *testing.T) {
 		for _, o := range []api.Op{{Kind: number}, {Kind: number, A: 1}, {Kind: number, A: 1, B: 1, X: 1}} {
 			if May(o) {
 				t.Errorf("P7.1: %+v may be", o)
+			}
+		}
+	}
+}
+
+func TestTransactionsOfSoManyOperations(t *testing.T) {
+	for _, k := range kinds() {
+		o := api.Op{Kind: k.number, A: k.a, B: k.b, X: k.x}
+		for _, n := range []int{0, 1, 2, 3, 4, 16, 70000} {
+			if got, want := MayAll(slices.Repeat([]api.Op{o}, n)...), n == 1 || n == 2; got != want {
+				t.Errorf("P7.1: %d of %+v: may %v", n, o, got)
+			}
+		}
+	}
+}
+
+func TestTransactionsOfWrongOperations(t *testing.T) {
+	good := api.Op{Kind: 5}
+	for _, bad := range []api.Op{{Kind: -1}, {Kind: 11}, {Kind: 5, A: 1}, {Kind: 0, A: 4}, {Kind: 10, B: 5}} {
+		for _, ops := range [][]api.Op{{bad}, {bad, bad}, {bad, good}, {good, bad}} {
+			if MayAll(ops...) {
+				t.Errorf("P7.1: %+v may be", ops)
 			}
 		}
 	}
